@@ -18,30 +18,6 @@ const (
 	ErrPayload Errno = 10 // too long a payload
 )
 
-// Table is pairs of filters and who. Make it by NewTable.
-type Table struct{}
-
-// NewTable makes a table (P5).
-func NewTable() *Table { return &Table{} }
-
-// Add puts a pair in (P5).
-func (b *Table) Add(f string, who int) (Errno, int) { return 0, 0 }
-
-// Drop takes a pair out (P5).
-func (b *Table) Drop(f string, who int) (Errno, int) { return 0, 0 }
-
-// Route tells who has a filter that matches (P6).
-func (b *Table) Route(t string) ([]int, Errno, int) { return nil, 0, 0 }
-
-// Code writes the table as a least machine (P9).
-func (b *Table) Code() string { return "" }
-
-// CheckCode tells whether a text is code (P7).
-func CheckCode(code string) (Errno, int) { return 0, 0 }
-
-// Walk runs code on a topic (P8).
-func Walk(code string, t string) ([]int, Errno, int) { return nil, 0, 0 }
-
 // Hub is clients, subscriptions and messages. Make it by NewHub.
 type Hub struct{}
 

@@ -1,6 +1,7 @@
 package hub_test
 
 import (
+	"fmt"
 	"math"
 	"strings"
 	"testing"
@@ -104,6 +105,31 @@ func TestTooLongComesFirst(t *testing.T) {
 	}
 }
 
+func TestTooLongComesFirstOfTables(t *testing.T) {
+	table := tableOf(t, []oraclePair{{"#", 0}})
+	for _, length := range []int{25, 26, 1000, 1 << 20} {
+		for _, c := range []string{"a", "/", "+", "#", "A", ";", "\xff"} {
+			long := strings.Repeat(c, length)
+			for _, who := range []int{math.MinInt, -1, 0, 15, 16, math.MaxInt} {
+				if err, place := table.Add(long, who); err != hub.ErrLong || place != 0 {
+					t.Errorf("P1: Add of %d %q = %d %d", length, c, err, place)
+				}
+				if err, place := table.Drop(long, who); err != hub.ErrLong || place != 0 {
+					t.Errorf("P1: Drop of %d %q = %d %d", length, c, err, place)
+				}
+			}
+			if got, err, place := table.Route(long); len(got) != 0 || err != hub.ErrLong || place != 0 {
+				t.Errorf("P1: Route of %d %q = %v %d %d", length, c, got, err, place)
+			}
+			for _, code := range []string{"", ";", "*000;", "A", "x;", strings.Repeat(";", 40001)} {
+				if got, err, place := hub.Walk(code, long); len(got) != 0 || err != hub.ErrLong || place != 0 {
+					t.Errorf("P1: Walk(%.20q) of %d %q = %v %d %d", code, length, c, got, err, place)
+				}
+			}
+		}
+	}
+}
+
 func tooLongMatch(t *testing.T, f string, topic string) {
 	if got, err, place := hub.Match(f, topic); got || err != hub.ErrLong || place != 0 {
 		t.Errorf("P1: Match(%.30q, %.30q) = %v %d %d", f, topic, got, err, place)
@@ -114,30 +140,43 @@ func tooLongMatch(t *testing.T, f string, topic string) {
 // this many calls would not end in time, were the bytes looked at.
 func TestTooLongIsFoundByLength(t *testing.T) {
 	long := strings.Repeat("a", 1<<26)
+	table := hub.NewTable()
 	for range 10000 {
 		hub.CheckTopic(long)
 		hub.CheckFilter(long)
 		hub.Match(long, long)
+		hub.CheckCode(long)
+		hub.Walk(long, "a")
+		hub.Walk(";", long)
+		table.Add(long, 0)
+		table.Drop(long, 0)
+		table.Route(long)
 	}
 }
 
 type answer struct {
 	got   bool
+	list  string
 	err   hub.Errno
 	place int
 }
 
-func answers(f string, t string) [3]answer {
-	var all [3]answer
+// answers runs the calls that are not of a table or a hub.
+func answers(f string, t string) [5]answer {
+	var all [5]answer
 	all[0].err, all[0].place = hub.CheckTopic(t)
 	all[1].err, all[1].place = hub.CheckFilter(f)
 	all[2].got, all[2].err, all[2].place = hub.Match(f, t)
+	code := "AB*000;C*001;" + f
+	all[3].err, all[3].place = hub.CheckCode(code)
+	list, err, place := hub.Walk(code, t)
+	all[4] = answer{list: fmt.Sprint(list), err: err, place: place}
 	return all
 }
 
 func TestAnswersHangOnArgumentsAlone(t *testing.T) {
-	some := texts("a$/+#", 2)
-	var first [][3]answer
+	some := append(texts("a$/+#", 2), "A", "A*000", "A;", "*002")
+	var first [][5]answer
 	for _, f := range some {
 		for _, topic := range some {
 			first = append(first, answers(f, topic))
