@@ -130,6 +130,27 @@ func TestTooLongComesFirstOfTables(t *testing.T) {
 	}
 }
 
+func TestTooLongComesFirstOfHubs(t *testing.T) {
+	p := play(t, 0)
+	p.subscribe(0, "#")
+	for _, length := range []int{25, 26, 1000, 1 << 20} {
+		for _, c := range []string{"a", "/", "+", "#", "A", "\xff"} {
+			long := strings.Repeat(c, length)
+			for _, client := range []int{0, 1} {
+				p.subscribeFails(client, long, hub.ErrLong, 0)
+				p.subscribeFails(client, "$share/g/"+long, hub.ErrLong, 0)
+				p.unsubscribeFails(client, long, hub.ErrLong, 0)
+				p.unsubscribeFails(client, "$share/g/"+long, hub.ErrLong, 0)
+			}
+			for _, payload := range []string{"", "x", long} {
+				p.publishFails(long, payload, false, hub.ErrLong, 0)
+				p.publishFails(long, payload, true, hub.ErrLong, 0)
+			}
+		}
+	}
+	p.take(0)
+}
+
 func tooLongMatch(t *testing.T, f string, topic string) {
 	if got, err, place := hub.Match(f, topic); got || err != hub.ErrLong || place != 0 {
 		t.Errorf("P1: Match(%.30q, %.30q) = %v %d %d", f, topic, got, err, place)
@@ -141,6 +162,9 @@ func tooLongMatch(t *testing.T, f string, topic string) {
 func TestTooLongIsFoundByLength(t *testing.T) {
 	long := strings.Repeat("a", 1<<26)
 	table := hub.NewTable()
+	h := hub.NewHub()
+	h.Connect(0)
+	share := "$share/" + long
 	for range 10000 {
 		hub.CheckTopic(long)
 		hub.CheckFilter(long)
@@ -151,6 +175,11 @@ func TestTooLongIsFoundByLength(t *testing.T) {
 		table.Add(long, 0)
 		table.Drop(long, 0)
 		table.Route(long)
+		h.Subscribe(0, long)
+		h.Subscribe(0, share)
+		h.Unsubscribe(0, share)
+		h.Publish(long, "x", true)
+		h.Publish("a", long, true)
 	}
 }
 
